@@ -1,0 +1,124 @@
+// Package triage: crashes of small programs, sorted, shrunk, and kept: see DOC.md.
+package triage
+
+// Errno is what a call answers: OK or the reason for a refusal.
+type Errno int
+
+const (
+	OK        Errno = 0
+	ErrLong   Errno = 1 // above a bound
+	ErrHead   Errno = 2 // no image, by its head
+	ErrOp     Errno = 3 // no instruction
+	ErrJump   Errno = 4 // to where there is no instruction
+	ErrFall   Errno = 5 // a function that goes on behind its end
+	ErrArg    Errno = 6 // a number that may not be
+	ErrCalm   Errno = 7 // it does not fault
+	ErrBundle Errno = 8 // no bundle
+	ErrStale  Errno = 9 // a bundle that tells another run
+)
+
+// Bounds that the document sets.
+const (
+	maxImage = 200
+	maxFuncs = 6
+	maxCode  = 60
+	maxInput = 24
+	maxFuel  = 2000
+	maxStack = 16
+	maxCalls = 8
+	maxCells = 16
+)
+
+// Kinds of faults; 0 stands for none.
+const (
+	kindUnder = iota + 1
+	kindOver
+	kindZero
+	kindWild
+	kindTrap
+	kindDeep
+)
+
+// How a run came to its end.
+const (
+	endDone = iota
+	endFault
+	endFuel
+)
+
+// Site is a place in a function.
+type Site struct{ Func, Place int }
+
+// edge answers the number of the edge that leads off from the site: one that goes elsewhere is odd, one that goes straight on is even.
+func (s Site) edge(elsewhere bool) int {
+	if elsewhere {
+		return 2*s.Place + 1
+	}
+	return 2 * s.Place
+}
+
+// Fault is where a run faulted, and how.
+type Fault struct {
+	Site
+	Kind int
+}
+
+// blame lays down what faulted, and how.
+func (f *Fault) blame(at Site, kind int) {
+	f.Site = at
+	f.Kind = kind
+}
+
+// Report tells of a run.
+type Report struct {
+	Fault
+	End   int
+	Sites []Site
+	Edges []int
+	Steps int
+	Top   int
+}
+
+// Bucket is the crashes of one key.
+type Bucket struct {
+	Kind    int
+	Sites   []Site
+	Members []int
+	Rep     int
+}
+
+// Bundle is a crash that can be played again.
+type Bundle struct {
+	Image string
+	Fuel  int
+	Depth int
+	Input string
+	Kind  int
+	Sites []Site
+	Edges []int
+}
+
+// Buckets sorts crashes (P5).
+func Buckets(image string, fuel int, depth int, inputs []string) ([]Bucket, Errno, int) {
+	return nil, 0, 0
+}
+
+// Shrink makes an input smaller (P6).
+func Shrink(image string, fuel int, depth int, input string) (string, Errno, int) { return "", 0, 0 }
+
+// Trim picks few inputs (P7).
+func Trim(image string, fuel int, inputs []string) ([]int, Errno, int) { return nil, 0, 0 }
+
+// Pack writes a bundle (P8).
+func Pack(b Bundle) (string, Errno) { return "", 0 }
+
+// Unpack reads a bundle (P8).
+func Unpack(text string) (Bundle, Errno) { return Bundle{}, 0 }
+
+// Replay plays a bundle again (P9).
+func Replay(text string) Errno { return 0 }
+
+// Triage makes a bundle of each bucket (P10).
+func Triage(image string, fuel int, depth int, inputs []string) ([]string, Errno, int) {
+	return nil, 0, 0
+}

@@ -166,8 +166,11 @@ func TestNoCallPanics(t *testing.T) {
 			triage.Run(image(in+jmp(0)), text, n)
 			triage.Buckets(text, n, n, nil)
 			triage.Buckets(text, n, n, texts)
+			triage.Buckets(ladder, n, n, []string{text, text})
 			triage.Shrink(text, n, n, text)
+			triage.Shrink(ladder, n, n, text)
 			triage.Trim(text, n, texts)
+			triage.Trim(ladder, n, []string{text, text})
 			triage.Triage(text, n, n, texts)
 			triage.Pack(triage.Bundle{Image: text, Fuel: n, Depth: n, Input: text, Kind: n, Sites: []triage.Site{{Func: n, Place: n}}, Edges: []int{n}})
 		}

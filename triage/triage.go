@@ -19,14 +19,16 @@ const (
 
 // Bounds that the document sets.
 const (
-	maxImage = 200
-	maxFuncs = 6
-	maxCode  = 60
-	maxInput = 24
-	maxFuel  = 2000
-	maxStack = 16
-	maxCalls = 8
-	maxCells = 16
+	maxImage  = 200
+	maxFuncs  = 6
+	maxCode   = 60
+	maxInput  = 24
+	maxInputs = 12
+	maxFuel   = 2000
+	maxDepth  = 6
+	maxStack  = 16
+	maxCalls  = 8
+	maxCells  = 16
 )
 
 // Kinds of faults; 0 stands for none.
@@ -97,17 +99,6 @@ type Bundle struct {
 	Sites []Site
 	Edges []int
 }
-
-// Buckets sorts crashes (P5).
-func Buckets(image string, fuel int, depth int, inputs []string) ([]Bucket, Errno, int) {
-	return nil, 0, 0
-}
-
-// Shrink makes an input smaller (P6).
-func Shrink(image string, fuel int, depth int, input string) (string, Errno, int) { return "", 0, 0 }
-
-// Trim picks few inputs (P7).
-func Trim(image string, fuel int, inputs []string) ([]int, Errno, int) { return nil, 0, 0 }
 
 // Pack writes a bundle (P8).
 func Pack(b Bundle) (string, Errno) { return "", 0 }

@@ -199,3 +199,49 @@ func fewest(t *testing.T, image string, fuel int, inputs []string) []int {
 		}
 	}
 }
+
+func TestTriageOfMazes(t *testing.T) {
+	d := dice(10)
+	var counts [13]int
+	for range 5000 {
+		image, fuel, depth, inputs := d.maze(), d.below(200), d.below(7), d.inputs()
+		counts[len(keptBundles(t, image, fuel, depth, inputs))]++
+	}
+	if slices.Min(counts[:5]) < 50 {
+		t.Errorf("numbers of bundles %v: the sweep is too narrow", counts)
+	}
+}
+
+// A bundle of any input's run plays again, and one with the report of another run does so only where both tell the same.
+func TestReplayInMazes(t *testing.T) {
+	d := dice(11)
+	var fresh, stale int
+	for range 20000 {
+		image, fuel, depth := d.maze(), d.below(200), d.below(7)
+		input, other := d.small(), d.small()
+		key, faults := crashOf(t, image, fuel, depth, other)
+		if !faults {
+			continue
+		}
+		edges := run(t, image, other, fuel).Edges
+		now, faultsNow := crashOf(t, image, fuel, depth, input)
+		want := triage.ErrStale
+		if faultsNow && reflect.DeepEqual(now, key) && slices.Equal(run(t, image, input, fuel).Edges, edges) {
+			want = triage.OK
+			fresh++
+		} else {
+			stale++
+		}
+		b := triage.Bundle{Image: image, Fuel: fuel, Depth: depth, Input: input, Kind: key.kind, Sites: key.sites, Edges: edges}
+		if code := triage.Replay(pack(t, b)); code != want {
+			t.Fatalf("P9: Replay of %+v answers %d, want %d", b, code, want)
+		}
+		b.Input = other
+		if code := triage.Replay(pack(t, b)); code != triage.OK {
+			t.Fatalf("P9: Replay of %+v answers %d, want OK", b, code)
+		}
+	}
+	if fresh < 500 || stale < 500 {
+		t.Errorf("%d fresh, %d stale: the sweep is too narrow", fresh, stale)
+	}
+}

@@ -34,23 +34,29 @@ func shrunk(t *testing.T, image string, fuel, depth int, input string) string {
 	if code != triage.OK || place != 0 {
 		t.Fatalf("P6: Shrink(%q, %d, %d, %q) answers %d, %d", image, fuel, depth, input, code, place)
 	}
+	return shrunkTo(t, image, fuel, depth, input, got)
+}
+
+// shrunkTo asserts that a text is one that P6 allows for an input, and answers it.
+func shrunkTo(t *testing.T, image string, fuel, depth int, input, got string) string {
+	t.Helper()
 	want, _ := crashOf(t, image, fuel, depth, input)
 	same := func(text string) bool {
 		key, faults := crashOf(t, image, fuel, depth, text)
 		return faults && reflect.DeepEqual(key, want)
 	}
 	if !same(got) {
-		t.Fatalf("P6: Shrink(%q, %d, %d, %q) = %q, which has another key", image, fuel, depth, input, got)
+		t.Fatalf("P6: image %q, fuel %d, depth %d: %q is shrunk to %q, which has another key", image, fuel, depth, input, got)
 	}
 	if !comesFrom(got, input) {
-		t.Fatalf("P6: Shrink(%q, %d, %d, %q) = %q, which does not come from it", image, fuel, depth, input, got)
+		t.Fatalf("P6: image %q, fuel %d, depth %d: %q is shrunk to %q, which does not come from it", image, fuel, depth, input, got)
 	}
 	for i := range len(got) {
 		if same(got[:i] + got[i+1:]) {
-			t.Fatalf("P6: Shrink(%q, %d, %d, %q) = %q: byte %d is not needed", image, fuel, depth, input, got, i)
+			t.Fatalf("P6: image %q, fuel %d, depth %d: %q is shrunk to %q: byte %d is not needed", image, fuel, depth, input, got, i)
 		}
 		if got[i] != 0 && same(got[:i]+"\x00"+got[i+1:]) {
-			t.Fatalf("P6: Shrink(%q, %d, %d, %q) = %q: byte %d may be 0", image, fuel, depth, input, got, i)
+			t.Fatalf("P6: image %q, fuel %d, depth %d: %q is shrunk to %q: byte %d may be 0", image, fuel, depth, input, got, i)
 		}
 	}
 	return got

@@ -99,17 +99,3 @@ type Bundle struct {
 	Sites []Site
 	Edges []int
 }
-
-// Pack writes a bundle (P8).
-func Pack(b Bundle) (string, Errno) { return "", 0 }
-
-// Unpack reads a bundle (P8).
-func Unpack(text string) (Bundle, Errno) { return Bundle{}, 0 }
-
-// Replay plays a bundle again (P9).
-func Replay(text string) Errno { return 0 }
-
-// Triage makes a bundle of each bucket (P10).
-func Triage(image string, fuel int, depth int, inputs []string) ([]string, Errno, int) {
-	return nil, 0, 0
-}
